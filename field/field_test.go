@@ -243,8 +243,8 @@ func TestOrder(t *testing.T) {
 	}
 }
 
-// K1: numbers of RFC 7748 and RFC 8032, which follow from each other.
-func TestPublished(t *testing.T) {
+// K1: the constants and base points of edwards25519 and Curve25519, and a half.
+func TestKnownNumbers(t *testing.T) {
 	d := decimal(t, "37095705934669439343138083508754565189542113879843219016388785533085940283555")
 	y := decimal(t, "46316835694926478169428394003475163141307993866256225615783033603165251855960")
 	x := decimal(t, "15112221349535400772501151409588531511454012693041857206046113283949847762202")
